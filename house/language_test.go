@@ -15,7 +15,7 @@ const allowed = " bytes cmp container/heap errors iter maps math math/big math/b
 
 const longest = 60
 
-// packages are the program's own.
+// packages are the program's own, in the order of the layers: each calls those ahead of it alone.
 const packages = "api bits part order agenda lex rule flow rank org roll match solve tally plan core hardy run gate disk journal image desk audit vault line"
 
 // sources are the program's files, less its tests.
@@ -60,6 +60,28 @@ func TestSourcesKeepToTheLanguage(t *testing.T) {
 				if lines := fset.Position(fun.End()).Line - fset.Position(fun.Pos()).Line + 1; lines > longest {
 					t.Errorf("%s: %s has %d lines", name, fun.Name.Name, lines)
 				}
+			}
+		}
+	}
+}
+
+// A layer imports no layer that lies over it.
+func TestLayersCallThoseBelow(t *testing.T) {
+	place := map[string]int{}
+	for i, p := range strings.Fields(packages) {
+		place["provost/"+p] = i
+	}
+	for _, name := range sources(t) {
+		f, err := parser.ParseFile(token.NewFileSet(), name, nil, parser.ImportsOnly)
+		if err != nil {
+			t.Fatal(err)
+		}
+		own := place["provost/"+f.Name.Name]
+		for _, i := range f.Imports {
+			path, _ := strconv.Unquote(i.Path.Value)
+			other, known := place[path]
+			if strings.HasPrefix(path, "provost/") && (!known || other >= own) {
+				t.Errorf("%s imports %s", name, path)
 			}
 		}
 	}
